@@ -212,7 +212,11 @@ func PlayMoves(heaps []int, moves []Move) ([]int, bool) {
 }
 
 func isMoveAmong(heaps int, m Move) bool {
-	return m.From >= 0 && m.From < heaps && m.To >= 0 && m.To < heaps && m.From != m.To && m.Count >= 1
+	return areTwoAmong(heaps, m.From, m.To) && m.Count >= 1
+}
+
+func areTwoAmong(heaps int, from int, to int) bool {
+	return from >= 0 && from < heaps && to >= 0 && to < heaps && from != to
 }
 
 // LineDistance returns the least sum, over all stones moved, of how many heaps farther each is carried until heaps in
@@ -344,26 +348,26 @@ func joinNumbers(list []int, separator string) string {
 
 // ParseHeaps returns the heaps with a HeapsText. It fails if there are none.
 func ParseHeaps(s string) ([]int, bool) {
-	heaps, ok := splitNumbers(s, "-", MaxHeaps)
+	heaps, ok := splitParts(s, "-", MaxHeaps, parseNumber)
 	if !ok || !AreHeaps(heaps) {
 		return nil, false
 	}
 	return heaps, true
 }
 
-// splitNumbers cuts off no more than one part too many: that one tells enough, however long the text is.
-func splitNumbers(s string, separator string, most int) ([]int, bool) {
+// splitParts cuts off no more than one part too many: that one tells enough, however long the text is.
+func splitParts[T any](s string, separator string, most int, parse func(string) (T, bool)) ([]T, bool) {
 	words := strings.SplitN(s, separator, most+1)
 	if len(words) > most {
 		return nil, false
 	}
-	list := make([]int, len(words))
+	list := make([]T, len(words))
 	for k, word := range words {
-		n, ok := parseNumber(word)
+		part, ok := parse(word)
 		if !ok {
 			return nil, false
 		}
-		list[k] = n
+		list[k] = part
 	}
 	return list, true
 }

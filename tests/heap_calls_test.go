@@ -40,7 +40,11 @@ func heapCalls() []heapCall {
 }
 
 func heapCallNamed(name string) func([]int) []any {
-	for _, c := range heapCalls() {
+	return callNamed(heapCalls(), name)
+}
+
+func callNamed(calls []heapCall, name string) func([]int) []any {
+	for _, c := range calls {
 		if c.name == name {
 			return c.call
 		}

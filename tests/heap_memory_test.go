@@ -2,8 +2,6 @@ package tests
 
 import (
 	"fmt"
-	"slices"
-	"sync"
 	"testing"
 
 	"loop.example/g01333/impl"
@@ -16,42 +14,12 @@ func heapLists() [][]int {
 }
 
 func TestHeapArgumentsAndResultsAreApart(t *testing.T) {
-	for _, c := range heapCalls() {
-		for _, heaps := range heapLists() {
-			what := fmt.Sprint(c.name, " of ", heaps)
-			want := copied(c.call(slices.Clone(heaps)))
-			for _, mark := range []int{-9, 0, 1, 5000} {
-				g := guard(heaps, mark)
-				first := c.call(g.list)
-				second := c.call(g.list)
-				wantSame(t, what+" with room behind", first, want...)
-				g.check(t, what)
-				spoil(first)
-				g.check(t, what+", its result overwritten")
-				wantSame(t, what+" again, the first result overwritten", second, want...)
-				wantSame(t, what+" once more", c.call(g.list), want...)
-			}
-		}
-	}
+	checkApart(t, heapCalls(), heapLists())
 }
 
 func TestMoveArgumentsAndResultsAreApart(t *testing.T) {
 	lists := [][]impl.Move{{}, {move(0, 1, 1)}, {move(0, 1, 1), move(0, 2, 2)}, {move(0, 1, 9)}, {move(0, 0, 1)}, backAndForth(100), backAndForth(101)}
-	for _, heaps := range heapLists() {
-		for _, list := range lists {
-			what := fmt.Sprint("PlayMoves of ", heaps, list)
-			want, wantOK := impl.PlayMoves(slices.Clone(heaps), slices.Clone(list))
-			want = slices.Clone(want)
-			h, m := guard(heaps, -9), guard(list, move(1, 0, 1))
-			played, ok := impl.PlayMoves(h.list, m.list)
-			wantSame(t, what, []any{played, ok}, want, wantOK)
-			spoil([]any{played})
-			h.check(t, what)
-			m.check(t, what)
-			again, ok := impl.PlayMoves(h.list, m.list)
-			wantSame(t, what+" again", []any{again, ok}, want, wantOK)
-		}
-	}
+	checkPlaysApart(t, impl.PlayMoves, heapLists(), lists, move(1, 0, 1))
 	for _, list := range lists {
 		m := guard(list, move(0, 1, 1))
 		impl.CostOfMoves(m.list)
@@ -92,17 +60,5 @@ func TestSpareCapacityIsNotRead(t *testing.T) {
 }
 
 func TestCallsAtTheSameTime(t *testing.T) {
-	heaps := []int{8, 7, 3, 2}
-	var calls sync.WaitGroup
-	for _, c := range heapCalls() {
-		want := c.call(heaps)
-		for range 4 {
-			calls.Go(func() {
-				for range 50 {
-					wantSame(t, c.name, c.call(heaps), want...)
-				}
-			})
-		}
-	}
-	calls.Wait()
+	checkAtTheSameTime(t, heapCalls(), []int{8, 7, 3, 2}, 50)
 }

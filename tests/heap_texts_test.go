@@ -54,13 +54,8 @@ var heapForm = regexp.MustCompile(`^(0|[1-9][0-9]{0,2}|1000)$`)
 
 // Each text of a few bytes has just the heaps whose text it is.
 func TestAllShortTexts(t *testing.T) {
-	bytes := "01-+ 9"
 	for size := range 7 {
-		eachList(size, len(bytes)-1, func(list []int) {
-			s := ""
-			for _, k := range list {
-				s += bytes[k : k+1]
-			}
+		eachText(size, "01-+ 9", func(s string) {
 			heaps, ok := impl.ParseHeaps(s)
 			if ok != isHeapsText(s) {
 				t.Errorf("ParseHeaps of %q: %v, %v", s, heaps, ok)

@@ -66,39 +66,44 @@ func (g guarded[T]) check(t *testing.T, what string) {
 	}
 }
 
-// copied and spoil reach up to the capacity of slices, as a caller who appends to them does.
+// copied and spoil reach the inner lists of results as well; spoil reaches up to the capacity of slices, as a caller
+// who appends to them does.
 func copied(results []any) []any {
 	out := make([]any, len(results))
 	for k, r := range results {
-		v := reflect.ValueOf(r)
-		if v.Kind() != reflect.Slice || v.Len() == 0 {
-			out[k] = r
-			continue
-		}
-		c := reflect.MakeSlice(v.Type(), v.Len(), v.Len())
-		reflect.Copy(c, v)
-		out[k] = c.Interface()
+		out[k] = copiedValue(reflect.ValueOf(r)).Interface()
 	}
 	return out
 }
 
+func copiedValue(v reflect.Value) reflect.Value {
+	if v.Kind() != reflect.Slice || v.Len() == 0 {
+		return v
+	}
+	c := reflect.MakeSlice(v.Type(), v.Len(), v.Len())
+	for k := range v.Len() {
+		c.Index(k).Set(copiedValue(v.Index(k)))
+	}
+	return c
+}
+
 func spoil(results []any) {
 	for _, r := range results {
-		switch list := r.(type) {
-		case []int:
-			list = list[:cap(list)]
-			for k := range list {
-				list[k] = -77
-			}
-		default:
-			v := reflect.ValueOf(r)
-			if v.Kind() != reflect.Slice {
-				continue
-			}
-			v = v.Slice(0, v.Cap())
-			for k := range v.Len() {
-				v.Index(k).SetZero()
-			}
+		spoilValue(reflect.ValueOf(r))
+	}
+}
+
+func spoilValue(v reflect.Value) {
+	if v.Kind() != reflect.Slice {
+		return
+	}
+	v = v.Slice(0, v.Cap())
+	for k := range v.Len() {
+		spoilValue(v.Index(k))
+		if v.Index(k).Kind() == reflect.Int {
+			v.Index(k).SetInt(-77)
+		} else {
+			v.Index(k).SetZero()
 		}
 	}
 }
@@ -126,6 +131,17 @@ func eachList(size int, most int, do func([]int)) {
 		}
 	}
 	fill(0)
+}
+
+// eachText calls do with all texts of so many of some bytes.
+func eachText(size int, bytes string, do func(string)) {
+	eachList(size, len(bytes)-1, func(list []int) {
+		s := ""
+		for _, k := range list {
+			s += bytes[k : k+1]
+		}
+		do(s)
+	})
 }
 
 func repeated(n int, times int) []int {
