@@ -38,11 +38,15 @@ func StonesOf(heaps []int) (int, bool) {
 	if !AreHeaps(heaps) {
 		return 0, false
 	}
-	stones := 0
-	for _, n := range heaps {
-		stones += n
+	return sumOf(heaps), true
+}
+
+func sumOf(list []int) int {
+	sum := 0
+	for _, n := range list {
+		sum += n
 	}
-	return stones, true
+	return sum
 }
 
 // CanBeEqual reports whether the stones can be shared equally: whether the number of heaps divides them.

@@ -53,19 +53,12 @@ func TestGoalsAreLeft(t *testing.T) {
 	}
 }
 
-// Each inner list is overwritten up to its capacity: the others stay as they are.
 func TestInnerListsAreApart(t *testing.T) {
 	for _, heaps := range [][]int{{2, 6}, {2, 2, 2}, {0, 0, 0, 40}, {8, 8, 8, 8}} {
-		want, _ := impl.HeapsBefore(heaps)
-		for k := range want {
+		checkInnerApart(t, fmt.Sprint("HeapsBefore of ", heaps), func() [][]int {
 			lists, _ := impl.HeapsBefore(heaps)
-			spoil([]any{lists[k]})
-			for j := range want {
-				if j != k && !slices.Equal(lists[j], want[j]) {
-					t.Errorf("HeapsBefore of %v: the list %d is %v when %d is overwritten", heaps, j, lists[j], k)
-				}
-			}
-		}
+			return lists
+		})
 	}
 }
 

@@ -49,6 +49,21 @@ func checkPlaysApart[T comparable](t *testing.T, play func([]int, []T) ([]int, b
 	}
 }
 
+// checkInnerApart overwrites each inner list up to its capacity: the others stay as they are.
+func checkInnerApart(t *testing.T, what string, call func() [][]int) {
+	t.Helper()
+	want := call()
+	for k := range want {
+		lists := call()
+		spoil([]any{lists[k]})
+		for j := range want {
+			if j != k && !slices.Equal(lists[j], want[j]) {
+				t.Errorf("%s: the list %d is %v when %d is overwritten", what, j, lists[j], k)
+			}
+		}
+	}
+}
+
 func checkAtTheSameTime(t *testing.T, calls []heapCall, heaps []int, times int) {
 	t.Helper()
 	var callers sync.WaitGroup
