@@ -219,8 +219,12 @@ func isMoveAmong(heaps int, m Move) bool {
 	return areTwoAmong(heaps, m.From, m.To) && m.Count >= 1
 }
 
-func areTwoAmong(heaps int, from int, to int) bool {
-	return from >= 0 && from < heaps && to >= 0 && to < heaps && from != to
+func areTwoAmong(count int, one int, other int) bool {
+	return isOneAmong(count, one) && isOneAmong(count, other) && one != other
+}
+
+func isOneAmong(count int, one int) bool {
+	return one >= 0 && one < count
 }
 
 // LineDistance returns the least sum, over all stones moved, of how many heaps farther each is carried until heaps in

@@ -12,9 +12,20 @@ var wildNumbers = []int{-1, math.MinInt64, math.MinInt64 + 1, -1 << 32, 1 << 31,
 
 // isZero takes a nil slice and an empty slice as the same value, as the document does.
 func isZero(result any) bool {
-	v := reflect.ValueOf(result)
-	if v.Kind() == reflect.Slice {
+	return isZeroValue(reflect.ValueOf(result))
+}
+
+func isZeroValue(v reflect.Value) bool {
+	switch v.Kind() {
+	case reflect.Slice:
 		return v.Len() == 0
+	case reflect.Struct:
+		for k := range v.NumField() {
+			if !isZeroValue(v.Field(k)) {
+				return false
+			}
+		}
+		return true
 	}
 	return v.IsZero()
 }
@@ -66,8 +77,8 @@ func (g guarded[T]) check(t *testing.T, what string) {
 	}
 }
 
-// copied and spoil reach the inner lists of results as well; spoil reaches up to the capacity of slices, as a caller
-// who appends to them does.
+// copied and spoil reach the inner lists of results as well, and those in structs; spoil reaches up to the capacity of
+// slices, as a caller who appends to them does.
 func copied(results []any) []any {
 	out := make([]any, len(results))
 	for k, r := range results {
@@ -77,12 +88,23 @@ func copied(results []any) []any {
 }
 
 func copiedValue(v reflect.Value) reflect.Value {
+	if v.Kind() == reflect.Struct {
+		return copiedStruct(v)
+	}
 	if v.Kind() != reflect.Slice || v.Len() == 0 {
 		return v
 	}
 	c := reflect.MakeSlice(v.Type(), v.Len(), v.Len())
 	for k := range v.Len() {
 		c.Index(k).Set(copiedValue(v.Index(k)))
+	}
+	return c
+}
+
+func copiedStruct(v reflect.Value) reflect.Value {
+	c := reflect.New(v.Type()).Elem()
+	for k := range v.NumField() {
+		c.Field(k).Set(copiedValue(v.Field(k)))
 	}
 	return c
 }
@@ -94,6 +116,11 @@ func spoil(results []any) {
 }
 
 func spoilValue(v reflect.Value) {
+	if v.Kind() == reflect.Struct {
+		for k := range v.NumField() {
+			spoilValue(v.Field(k))
+		}
+	}
 	if v.Kind() != reflect.Slice {
 		return
 	}
