@@ -49,7 +49,7 @@ func wantSame(t *testing.T, what string, got []any, want ...any) {
 		if isZero(got[k]) && isZero(want[k]) {
 			continue
 		}
-		if !reflect.DeepEqual(got[k], want[k]) {
+		if !reflect.DeepEqual(got[k], want[k]) && !reflect.DeepEqual(copied(got[k:k+1]), copied(want[k:k+1])) {
 			t.Errorf("%s: result %d is %v, want %v", what, k, got[k], want[k])
 		}
 	}
@@ -77,8 +77,8 @@ func (g guarded[T]) check(t *testing.T, what string) {
 	}
 }
 
-// copied and spoil reach the inner lists of results as well, and those in structs; spoil reaches up to the capacity of
-// slices, as a caller who appends to them does.
+// copied and spoil reach the inner lists of results as well, and those in structs; empty lists become nil ones in what is
+// copied, and spoil reaches up to the capacity of slices, as a caller who appends to them does.
 func copied(results []any) []any {
 	out := make([]any, len(results))
 	for k, r := range results {
@@ -91,8 +91,11 @@ func copiedValue(v reflect.Value) reflect.Value {
 	if v.Kind() == reflect.Struct {
 		return copiedStruct(v)
 	}
-	if v.Kind() != reflect.Slice || v.Len() == 0 {
+	if v.Kind() != reflect.Slice {
 		return v
+	}
+	if v.Len() == 0 {
+		return reflect.Zero(v.Type())
 	}
 	c := reflect.MakeSlice(v.Type(), v.Len(), v.Len())
 	for k := range v.Len() {
