@@ -2,7 +2,6 @@ package tests
 
 import (
 	"fmt"
-	"math"
 	"slices"
 	"testing"
 
@@ -15,8 +14,11 @@ func TestPuzzleConstants(t *testing.T) {
 	}
 }
 
-// eachClueOf calls do with all clues of so many heaps.
+// eachClueOf calls do with all clues of so many heaps: there are some of 2, 3 and 4 heaps alone.
 func eachClueOf(heaps int, do func(impl.Clue)) {
+	if heaps < 2 || heaps > 4 {
+		return
+	}
 	upTo := func(kind int, a int, b int, most int) {
 		for c := range most + 1 {
 			do(impl.Clue{Kind: kind, A: a, B: b, C: c})
@@ -45,7 +47,7 @@ func cluesOf(heaps int) []impl.Clue {
 }
 
 func TestAllClues(t *testing.T) {
-	for heaps := range 9 {
+	for heaps := -2; heaps <= 8; heaps++ {
 		isOne := map[impl.Clue]bool{}
 		eachClueOf(heaps, func(c impl.Clue) { isOne[c] = true })
 		for kind := -2; kind <= 7; kind++ {
@@ -84,26 +86,29 @@ func TestCluesByTheLeast(t *testing.T) {
 	}
 }
 
-// A clue may tell of any number of heaps, also of more and of fewer than hidden heaps are.
-func TestCluesOfAnyNumberOfHeaps(t *testing.T) {
-	for _, r := range []struct {
-		heaps int
-		text  string
-		want  bool
-	}{
-		{1, "0.0.0.5", true}, {0, "0.0.0.5", true}, {-1, "0.0.0.5", true}, {math.MinInt64, "3.0.0.20", true}, {math.MaxInt64, "5.0.0.0", true}, {5, "0.0.0.20", true}, {5, "0.0.0.21", false}, {100, "5.0.0.6", false}, {0, "5.0.0.6", false}, {-9, "6.0.0.0", false}, {0, "-1.0.0.0", false},
-		{1, "1.0.1.1", false}, {1, "1.0.0.1", false}, {0, "1.0.1.1", false}, {0, "1.0.0.0", false}, {-1, "1.-1.-2.0", false}, {-5, "1.0.1.0", false}, {5, "1.4.3.1", true}, {5, "1.5.3.1", false}, {100, "1.99.98.0", true}, {100, "1.99.100.0", false}, {math.MaxInt64, "1.99.100.0", true}, {math.MaxInt64, "1.9223372036854775806.0.1", true}, {math.MaxInt64, "1.9223372036854775807.0.1", false}, {math.MinInt64, "1.0.1.1", false},
-		{1, "4.0.0.5", false}, {1, "4.0.1.5", false}, {0, "4.0.0.0", false}, {5, "4.0.4.10", true}, {5, "4.0.4.11", false}, {5, "4.0.5.10", false}, {math.MaxInt64, "4.0.9223372036854775806.10", true}, {math.MinInt64, "4.0.1.5", false},
-		{1, "2.5.0.1", true}, {1, "2.5.0.2", false}, {0, "2.5.0.0", true}, {0, "2.5.0.1", false}, {-1, "2.5.0.0", false}, {-1, "2.5.0.-1", false}, {5, "2.0.0.5", true}, {5, "2.0.0.6", false}, {100, "2.0.0.100", true}, {100, "2.6.0.100", false}, {math.MaxInt64, "2.0.0.9223372036854775807", true}, {math.MinInt64, "2.0.0.0", false}, {math.MinInt64, "2.0.0.-9223372036854775808", false},
-	} {
-		wantIsClue(t, r.heaps, clue(r.text), r.want)
+// cluesByNumber have numbers that a clue of so many heaps could have, if there were hidden heaps of any number.
+func cluesByNumber(heaps int) []impl.Clue {
+	return []impl.Clue{{}, {C: 5}, {C: 20}, {Kind: 3}, {Kind: 3, C: 6}, {Kind: 3, C: 20}, {Kind: 5}, {Kind: 5, C: 5},
+		{Kind: 1, A: heaps - 1, B: heaps - 2, C: 1}, {Kind: 1, A: heaps - 1, C: 1}, {Kind: 1, B: heaps - 1}, {Kind: 4, A: heaps - 1, B: heaps - 2, C: 10}, {Kind: 4, A: heaps - 1, C: 3}, {Kind: 4, B: heaps - 1, C: 10},
+		{Kind: 2, A: 5}, {Kind: 2, A: 1, C: 2}, {Kind: 2, C: heaps}, {Kind: 2, A: 5, C: heaps}, {Kind: 2, A: 1, C: heaps - 1}}
+}
+
+// Of 2, 3 and 4 heaps alone there are clues: of no other number of heaps, even if all numbers of a clue would suit it.
+func TestCluesOfHiddenHeapsAlone(t *testing.T) {
+	for heaps := 2; heaps <= 4; heaps++ {
+		for _, c := range cluesByNumber(heaps) {
+			wantIsClue(t, heaps, c, true)
+		}
 	}
-	for _, heaps := range []int{-1, 0, 1, 5, 6, 12} {
-		for _, c := range cluesOf(max(heaps, 0)) {
-			if heaps >= 0 {
-				wantIsClue(t, heaps, c, true)
-			}
+	ofHidden := slices.Concat(cluesOf(2), cluesOf(3), cluesOf(4))
+	for _, heaps := range append([]int{-4, -3, -2, 0, 1, 5, 6, 7, 12, 13, 100}, wildNumbers...) {
+		for _, c := range slices.Concat(cluesByNumber(heaps), ofHidden, badClues(heaps)) {
+			wantIsClue(t, heaps, c, false)
 			wantIsPuzzle(t, impl.Puzzle{Heaps: heaps, Clues: []impl.Clue{c}}, false)
+			wantNoPuzzleWith(t, impl.Puzzle{Heaps: heaps}, c)
+			if heaps >= 0 && heaps <= 100 {
+				wantNoFit(t, c, repeated(1, heaps))
+			}
 		}
 	}
 }
